@@ -127,8 +127,8 @@ func TestSizes(t *testing.T) {
 		{field("", strings.Repeat("v", 4064)), 4096},
 	} {
 		tab := made(t, 4096, c.f)
-		if tab.Size() != c.size {
-			t.Errorf("%q: size %d, want %d", c.f, tab.Size(), c.size)
+		if tab.Size() != c.size || SizeOf(c.f) != c.size {
+			t.Errorf("%q: size %d, by itself %d, want %d", c.f, tab.Size(), SizeOf(c.f), c.size)
 		}
 		checkAll(t, tab, 4096, c.f)
 	}
