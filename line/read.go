@@ -49,7 +49,7 @@ func ReadTell(b []byte, bare, closed bool) (a api.Reply, used int, err error) {
 		}
 		return true
 	})
-	if !bare && hasBody(a.Code) {
+	if !bare && HasBody(a.Code) {
 		a.Body = body()
 	}
 	if err := r.fault(); err != nil {
@@ -58,7 +58,8 @@ func ReadTell(b []byte, bare, closed bool) (a api.Reply, used int, err error) {
 	return a, r.at, nil
 }
 
-func hasBody(code int) bool {
+// HasBody tells whether a reply of a code may have one.
+func HasBody(code int) bool {
 	return code >= 200 && code != 204 && code != 304
 }
 
