@@ -510,6 +510,36 @@ func TestReadSetsMany(t *testing.T) {
 	}
 }
 
+// Settings gives them one by one, also numbers above MaxWord, and none that is cut.
+func TestSettings(t *testing.T) {
+	b := []byte{0, 1, 0, 0, 0, 2, 255, 255, 255, 255, 255, 255, 1, 0, 128, 0, 0, 0}
+	want := [][2]int{{1, 2}, {65535, 1<<32 - 1}, {256, 1 << 31}}
+	for n := range len(b) + 1 {
+		if got := slices.Collect(Settings(b[:n])); !slices.Equal(got, want[:n/6]) {
+			t.Errorf("Settings of %d bytes: got %v, want %v", n, got, want[:n/6])
+		}
+	}
+	for s := range Settings(b) {
+		if s != want[0] {
+			t.Errorf("got %v first", s)
+		}
+		break
+	}
+}
+
+// Number has no bound but its bytes.
+func TestNumber(t *testing.T) {
+	for want, b := range map[int][]byte{
+		0: nil, 255: {255}, 256: {1, 0}, api.MaxWord: {127, 255, 255, 255}, 1 << 31: {128, 0, 0, 0}, 1<<32 - 1: {255, 255, 255, 255},
+		1<<56 - 1: {255, 255, 255, 255, 255, 255, 255},
+	} {
+		if got := Number(b); got != want {
+			t.Errorf("Number(%v): got %d, want %d", b, got, want)
+		}
+	}
+	Number(some(100))
+}
+
 // P2: what comes out is fresh memory, what goes in stays.
 func TestFresh(t *testing.T) {
 	body := some(3000)
