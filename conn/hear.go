@@ -5,18 +5,12 @@ import (
 
 	"tollgate/api"
 	"tollgate/frame"
+	"tollgate/side"
 	"tollgate/stream"
 )
 
 // maxBlock is how many frames a head may have.
 const maxBlock = 16
-
-// block is a head that is not whole yet; of no frames: there is none.
-type block struct {
-	stream, frames int
-	end            bool
-	bytes          []byte
-}
 
 // nothing is the event of a frame of which none is told.
 func nothing() api.Event { return api.Event{} }
@@ -36,9 +30,9 @@ func (c *Conn) hear(f api.Frame, err error) api.Event {
 	case api.Set:
 		return c.hearSet(f)
 	case api.Ping:
-		return c.hearPing(f)
+		c.side.Ping(f)
 	case api.Bye:
-		return api.Event{What: api.Ended, Code: frame.Number(f.Body[wordBytes : 2*wordBytes])}
+		return api.Event{What: api.Ended, Code: side.Word(f, 1)}
 	case api.Wide:
 		return c.hearWide(f)
 	}
@@ -58,60 +52,37 @@ func (c *Conn) refuse(f api.Frame, err error) int {
 	if code := frame.Check(f); code != api.CodeNone {
 		return code
 	}
-	if !c.inTurn(f) {
+	if !c.side.InTurn(f) || c.side.Gathered() == maxBlock {
 		return api.CodeProto
 	}
 	return api.CodeNone
 }
 
-// inTurn tells whether a frame may follow: More a head that is not whole, and nothing else that.
-func (c *Conn) inTurn(f api.Frame) bool {
-	if c.block.frames == 0 {
-		return f.Kind != api.More
-	}
-	return f.Kind == api.More && f.Stream == c.block.stream && c.block.frames < maxBlock
-}
-
-// hearHead gathers the frames of a head.
 func (c *Conn) hearHead(f api.Frame) api.Event {
-	if f.Kind == api.Head {
-		c.block = block{stream: f.Stream, end: ends(f)}
-	}
-	c.block.frames++
-	c.block.bytes = append(c.block.bytes, f.Body...)
-	if f.Flags&api.Whole == 0 {
-		return nothing()
-	}
-	whole := c.block
-	c.block = block{}
-	return c.hearWhole(whole)
-}
-
-func (c *Conn) hearWhole(b block) api.Event {
 	// Of streams that are passed over too: the table must stay as the other side has it.
-	fields, err := c.coder.Decode(b.bytes)
+	h, whole, err := c.side.Gather(f)
 	if err != nil {
 		return c.fail(api.CodeHead)
 	}
-	if c.passesOver(b.stream) {
+	if !whole || c.passesOver(h.Stream) {
 		return nothing()
 	}
-	if c.streams.State(b.stream) == api.Idle {
-		if code, all := c.streams.Open(b.stream); code != api.CodeNone {
-			return c.wrong(b.stream, code, all)
+	if c.streams.State(h.Stream) == api.Idle {
+		if code, all := c.streams.Open(h.Stream); code != api.CodeNone {
+			return c.wrong(h.Stream, code, all)
 		}
-		c.lanes[b.stream] = &lane{in: window(api.Window), out: window(c.first)}
+		c.open(h.Stream)
 	}
-	if code, all := c.move(b.stream, api.Head, b.end); code != api.CodeNone {
-		return c.wrong(b.stream, code, all)
+	if code, all := c.move(h.Stream, api.Head, h.End); code != api.CodeNone {
+		return c.wrong(h.Stream, code, all)
 	}
-	return api.Event{What: api.Asked, Stream: b.stream, Fields: fields, End: b.end}
+	return api.Event{What: api.Asked, Stream: h.Stream, Fields: h.Fields, End: h.End}
 }
 
 func (c *Conn) hearData(f api.Frame) api.Event {
-	over, l := c.passesOver(f.Stream), c.lanes[f.Stream]
+	over, lane := c.passesOver(f.Stream), c.lanes[f.Stream]
 	if !over {
-		if code, all := c.move(f.Stream, api.Data, ends(f)); code != api.CodeNone {
+		if code, all := c.move(f.Stream, api.Data, side.Ends(f)); code != api.CodeNone {
 			return c.wrong(f.Stream, code, all)
 		}
 	}
@@ -123,11 +94,11 @@ func (c *Conn) hearData(f api.Frame) api.Event {
 	if over {
 		return nothing()
 	}
-	if err := l.in.Take(n); err != nil {
+	if err := lane.Take(n); err != nil {
 		return c.reset(f.Stream, api.CodeFlow)
 	}
 	c.use(f.Stream, -n)
-	return api.Event{What: api.Came, Stream: f.Stream, Body: f.Body, End: ends(f)}
+	return api.Event{What: api.Came, Stream: f.Stream, Body: f.Body, End: side.Ends(f)}
 }
 
 func (c *Conn) hearStop(f api.Frame) api.Event {
@@ -138,68 +109,25 @@ func (c *Conn) hearStop(f api.Frame) api.Event {
 	if was == api.Closed {
 		return nothing()
 	}
-	return api.Event{What: api.Reset, Stream: f.Stream, Code: frame.Number(f.Body)}
+	return api.Event{What: api.Reset, Stream: f.Stream, Code: side.Word(f, 0)}
 }
 
 func (c *Conn) hearSet(f api.Frame) api.Event {
-	if ends(f) {
-		return nothing()
-	}
-	for s := range frame.Settings(f.Body) {
-		switch s[0] {
-		case api.SetWindow:
-			if err := c.shift(s[1]); err != nil {
-				return c.fail(api.CodeFlow)
-			}
-		case api.SetTable:
-			c.coder.Resize(min(s[1], api.MaxTable))
-		}
-	}
-	// First it is said that the settings hold, then what goes out because they do.
-	c.say(api.Frame{Kind: api.Set, Flags: api.End})
-	c.sayWaiting()
-	return nothing()
-}
-
-// shift the windows for what goes out of all streams to what SetWindow says.
-func (c *Conn) shift(now int) error {
-	for _, l := range c.lanes {
-		// Whichever is told first: with an error all is over, and none of them is asked any more.
-		if err := l.out.Shift(c.first, now); err != nil {
-			return err
-		}
-	}
-	c.first = now
-	return nil
-}
-
-func (c *Conn) hearPing(f api.Frame) api.Event {
-	if !ends(f) {
-		c.say(api.Frame{Kind: api.Ping, Flags: api.End, Body: f.Body})
+	if err := c.side.Set(f); err != nil {
+		return c.fail(api.CodeFlow)
 	}
 	return nothing()
 }
 
 func (c *Conn) hearWide(f api.Frame) api.Event {
-	by := frame.Number(f.Body)
-	if f.Stream == 0 {
-		if err := c.out.Give(by); err != nil {
-			return c.fail(api.CodeFlow)
+	if f.Stream != 0 {
+		if code, all := c.move(f.Stream, api.Wide, false); code != api.CodeNone {
+			return c.wrong(f.Stream, code, all)
 		}
-		c.sayWaiting()
-		return nothing()
 	}
-	if code, all := c.move(f.Stream, api.Wide, false); code != api.CodeNone {
-		return c.wrong(f.Stream, code, all)
+	if err := c.side.Widen(f.Stream, side.Word(f, 0)); err != nil {
+		return c.wrong(f.Stream, api.CodeFlow, f.Stream == 0)
 	}
-	l, ok := c.lanes[f.Stream]
-	if !ok {
-		return nothing()
-	}
-	if err := l.out.Give(by); err != nil {
-		return c.reset(f.Stream, api.CodeFlow)
-	}
-	c.sayWaiting()
 	return nothing()
 }
 
@@ -217,5 +145,3 @@ func (c *Conn) passesOver(id int) bool {
 	_, ok := c.stopped[id]
 	return ok
 }
-
-func ends(f api.Frame) bool { return f.Flags&api.End != 0 }
